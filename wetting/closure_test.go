@@ -17,8 +17,8 @@ func checkClose(t *testing.T, g graph, set, rounds []int) {
 			wet = append(wet, v)
 		}
 	}
-	if l, n, e := wetting.Close(g.n, g.edges, set); e != api.OK || n != slices.Max(rounds) || !slices.Equal(l, wet) {
-		t.Errorf("Close(%v, %v) = %v, %d, %d, not %v, %d", g, set, l, n, e, wet, slices.Max(rounds))
+	if l, n, e := wetting.Close(g.n, g.edges, set); e != api.OK || n != lastRound(rounds) || !slices.Equal(l, wet) {
+		t.Errorf("Close(%v, %v) = %v, %d, %d, not %v, %d", g, set, l, n, e, wet, lastRound(rounds))
 	}
 	if l, e := wetting.Rounds(g.n, g.edges, set); e != api.OK || !slices.Equal(l, rounds) {
 		t.Errorf("Rounds(%v, %v) = %v, %d, not %v", g, set, l, e, rounds)

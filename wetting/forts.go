@@ -2,10 +2,10 @@ package wetting
 
 import "numnah/api"
 
-// isFort reports whether a set is a fort: if all other vertices are wet, none of them can wet one of it.
+// isFort reports whether a set is a fort: it is not empty, and if all other vertices are wet, none of them can wet one of it.
 func (g *graph) isFort(s set) bool {
 	wet := g.all().minus(s)
-	return g.force(wet) == wet
+	return s != set{} && g.force(wet) == wet
 }
 
 // leastForts are the forts that contain no smaller one, in the order in which sets are visited.

@@ -114,7 +114,7 @@ func TestWhatIsNoGraph(t *testing.T) {
 		// Edges that occur twice.
 		{2, [][2]int{{0, 1}, {0, 1}}}, {3, [][2]int{{0, 1}, {1, 2}, {0, 1}}}, {12, append(pairs(12), [2]int{10, 11})}, {12, slices.Repeat([][2]int{{3, 5}}, 100000)}, {12, make([][2]int, 100000)},
 	} {
-		for _, set := range [][]int{{0}, nil, {1, 0}, {0, 1}} {
+		for _, set := range [][]int{{0}, nil, {}, {1, 0}, {0, 1}} {
 			for _, r := range []int{1, 0} {
 				for _, x := range allCalls(g.n, g.edges, set, r, [][2]int{{5, 5}}) {
 					checkRefused(t, x, g, set, r)
@@ -128,7 +128,7 @@ func TestWhatIsNoGraph(t *testing.T) {
 func TestWhatIsNoSet(t *testing.T) {
 	for _, g := range []graph{path(4), ring(4), complete(4), empty(4)} {
 		for _, set := range [][]int{
-			nil, {}, {4}, {-1}, {0, 4}, {-1, 0}, {0, 0}, {1, 0}, {3, 3}, {0, 1, 1}, {0, 2, 1}, {0, 1, 2, 3, 3}, {0, 1, 2, 3, 4}, {0, 1, 2, 3, 0}, {3, 2, 1, 0}, {12}, {math.MinInt}, {math.MaxInt}, {math.MinInt, 0}, {0, math.MaxInt}, {0, math.MinInt}, {1 << 32}, make([]int, 100000), upTo(0, 100000),
+			{4}, {-1}, {0, 4}, {-1, 0}, {0, 0}, {1, 0}, {3, 3}, {0, 1, 1}, {0, 2, 1}, {0, 1, 2, 3, 3}, {0, 1, 2, 3, 4}, {0, 1, 2, 3, 0}, {3, 2, 1, 0}, {12}, {math.MinInt}, {math.MaxInt}, {math.MinInt, 0}, {0, math.MaxInt}, {0, math.MinInt}, {1 << 32}, make([]int, 100000), upTo(0, 100000),
 		} {
 			for _, chronicle := range [][][2]int{nil, {{0, 1}}, {{9, 9}}} {
 				for _, x := range setCalls(g.n, g.edges, set, 1, chronicle) {
@@ -143,7 +143,7 @@ func TestWhatIsNoSet(t *testing.T) {
 func TestWhatIsASet(t *testing.T) {
 	for n := 1; n <= api.MaxPlaces; n++ {
 		for _, g := range []graph{{n, nil}, {n, [][2]int{}}, complete(n)} {
-			for _, set := range [][]int{{0}, {n - 1}, upTo(0, n), upTo(n/2, n)} {
+			for _, set := range [][]int{nil, {}, {0}, {n - 1}, upTo(0, n), upTo(n/2, n)} {
 				if l, _, e := wetting.Close(n, g.edges, set); e != api.OK || len(l) < len(set) {
 					t.Errorf("Close(%v, %v) = %v, %d", g, set, l, e)
 				}
@@ -155,11 +155,13 @@ func TestWhatIsASet(t *testing.T) {
 // ErrArg comes first for every function that takes a threshold, if it is none.
 func TestWhatIsNoThreshold(t *testing.T) {
 	for _, g := range []graph{empty(1), path(4), complete(12)} {
-		for _, r := range []int{0, -1, 7, 8, 12, math.MinInt, math.MaxInt, 1 << 32, 1<<32 + 1} {
-			for _, x := range allCalls(g.n, g.edges, upTo(0, g.n), r, nil) {
-				switch x.name {
-				case "Fewest", "Shared", "Soak", "Shelter":
-					checkRefused(t, x, g, r)
+		for _, set := range [][]int{upTo(0, g.n), nil, {}} {
+			for _, r := range []int{0, -1, 7, 8, 12, math.MinInt, math.MaxInt, 1 << 32, 1<<32 + 1} {
+				for _, x := range allCalls(g.n, g.edges, set, r, nil) {
+					switch x.name {
+					case "Fewest", "Shared", "Soak", "Shelter":
+						checkRefused(t, x, g, set, r)
+					}
 				}
 			}
 		}

@@ -44,16 +44,16 @@ func (g graph) all() bits {
 	return 1<<g.n - 1
 }
 
-// sets are all sets, without the empty one.
+// sets are all sets, the empty one first.
 func (g graph) sets() []bits {
 	var sets []bits
-	for s := bits(1); s <= g.all(); s++ {
+	for s := bits(0); s <= g.all(); s++ {
 		sets = append(sets, s)
 	}
 	return sets
 }
 
-// inOrder are all sets, without the empty one, ordered by their lengths, and those of one length lexicographically.
+// inOrder are all sets, ordered by their lengths, and those of one length lexicographically.
 func (g graph) inOrder() []bits {
 	sets := g.sets()
 	slices.SortFunc(sets, func(s, t bits) int {
@@ -147,7 +147,12 @@ func (g graph) closure(set bits, can rule) (bits, int) {
 			wet |= 1 << v
 		}
 	}
-	return wet, slices.Max(rounds)
+	return wet, lastRound(rounds)
+}
+
+// lastRound is the last round in which something becomes wet, which is 0 if all vertices stay dry.
+func lastRound(rounds []int) int {
+	return max(0, slices.Max(rounds))
 }
 
 func (g graph) wetsAll(set bits, can rule) bool {
@@ -413,15 +418,15 @@ func someGraphs(seed int64, count int) []graph {
 	return graphs
 }
 
-// someSets is a fixed choice of sets of a graph; of one with few vertices they are all.
+// someSets is a fixed choice of sets of a graph, the empty one among them; of one with few vertices they are all.
 func someSets(seed int64, g graph, count int) []bits {
 	sets := g.sets()
 	if len(sets) <= count {
 		return sets
 	}
 	random := rand.New(rand.NewSource(seed))
-	var some []bits
-	for range count {
+	some := []bits{0}
+	for range count - 1 {
 		some = append(some, sets[random.Intn(len(sets))])
 	}
 	return some

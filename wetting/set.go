@@ -54,7 +54,7 @@ func (s set) size() int {
 	return size
 }
 
-// sets visits all sets of vertices but the empty one, smaller ones first, and those of one size lexicographically.
+// sets visits all sets of vertices but the empty one, which is no fort and wets nothing; smaller ones first, and those of one size lexicographically.
 func (g *graph) sets() iter.Seq[set] {
 	return func(yield func(set) bool) {
 		for i := range g.n {
