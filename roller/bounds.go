@@ -1,6 +1,9 @@
 package roller
 
-import "numnah/api"
+import (
+	"numnah/api"
+	"numnah/fraction"
+)
 
 // isVector reports whether the matrix can be applied to a list whose numbers are to be at least as great as the given one.
 func (m matrix) isVector(x []int, least int) bool {
@@ -26,17 +29,6 @@ func (m matrix) apply(x []int) []int {
 	return sums
 }
 
-// less compares two quotients of numbers of apply and numbers of its list, whose products are far inside of the range of int.
-func less(a, b api.Frac) bool {
-	return a.Num*b.Den < b.Num*a.Den
-}
-
-// lowest is a fraction in lowest terms.
-func lowest(f api.Frac) api.Frac {
-	divisor := commonDivisor(f.Num, f.Den)
-	return api.Frac{Num: f.Num / divisor, Den: f.Den / divisor}
-}
-
 // Next returns the list whose number at i is the sum, over all j, of the number of m at i, j times x[j].
 func Next(m [][]int, x []int) ([]int, api.Errno) {
 	a, ok := readMatrix(m)
@@ -52,17 +44,17 @@ func Bounds(m [][]int, x []int) (api.Frac, api.Frac, api.Errno) {
 	if !ok || !a.isVector(x, 1) {
 		return api.Frac{}, api.Frac{}, api.ErrArg
 	}
-	next := a.apply(x)
-	lower := api.Frac{Num: next[0], Den: x[0]}
+	next := a.apply(x) // at most 8 * 9 * 10^8, so that the products by which the quotients are compared are far inside of the range of int
+	lower := fraction.Lowest(next[0], x[0])
 	upper := lower
 	for i := range a.size {
-		quotient := api.Frac{Num: next[i], Den: x[i]}
-		if less(quotient, lower) {
+		quotient := fraction.Lowest(next[i], x[i])
+		if fraction.Compare(quotient, lower) < 0 {
 			lower = quotient
 		}
-		if less(upper, quotient) {
+		if fraction.Compare(quotient, upper) > 0 {
 			upper = quotient
 		}
 	}
-	return lowest(lower), lowest(upper), api.OK
+	return lower, upper, api.OK
 }

@@ -1,6 +1,9 @@
 package roller
 
-import "numnah/api"
+import (
+	"numnah/api"
+	"numnah/fraction"
+)
 
 // classed is a matrix with its classes. A class is known by its smallest number.
 type classed struct {
@@ -68,19 +71,11 @@ func (c classed) period(from int) int {
 	for i := range c.size {
 		for j := range c.size {
 			if c.at[i][j] > 0 && depths[i] >= 0 && depths[j] >= 0 {
-				period = commonDivisor(period, depths[i]+1-depths[j])
+				period = fraction.CommonDivisor(period, depths[i]+1-depths[j])
 			}
 		}
 	}
 	return period
-}
-
-// commonDivisor is the greatest one of two numbers that are not negative; that of 0 and a number is the number.
-func commonDivisor(a, b int) int {
-	for b != 0 {
-		a, b = b, a%b
-	}
-	return a
 }
 
 // isFinal reports whether no step leads out of a class.

@@ -4,28 +4,12 @@ import (
 	"math/bits"
 
 	"numnah/api"
+	"numnah/fraction"
 )
-
-// commonDivisor is the greatest common divisor of a number that is not negative and one that is at least 1.
-func commonDivisor(a, b int) int {
-	for b != 0 {
-		a, b = b, a%b
-	}
-	return a
-}
-
-// lowest is a fraction in lowest terms; num is not negative, and den at least 1.
-func lowest(num, den int) api.Frac {
-	divisor := commonDivisor(num, den)
-	return api.Frac{Num: num / divisor, Den: den / divisor}
-}
 
 // isChance reports whether a fraction is one that can be asked for as a chance.
 func isChance(f api.Frac) bool {
-	if f.Num < 0 || f.Num > f.Den || f.Den < 1 || f.Den > api.MaxDen {
-		return false
-	}
-	return f == lowest(f.Num, f.Den)
+	return fraction.IsValid(f) && f.Num >= 0 && f.Num <= f.Den && f.Den <= api.MaxDen
 }
 
 // less compares two fractions that are not negative. The products of their numbers may be outside of the range of int.

@@ -1,6 +1,9 @@
 package spread
 
-import "numnah/api"
+import (
+	"numnah/api"
+	"numnah/fraction"
+)
 
 // line are points on a line that have been read.
 type line struct {
@@ -43,7 +46,7 @@ func (l *line) excess(count, t int) int {
 
 // fraction is the excess with the numerator.
 func (l *line) fraction(excess int) api.Frac {
-	return lowest(excess, l.size*l.scale)
+	return fraction.Lowest(excess, l.size*l.scale)
 }
 
 // at visits both counts at t, and the count below alone at the end of the line.
@@ -97,24 +100,24 @@ func Interval(scale int, points []int) (api.Frac, [2]int, api.Errno) {
 	}
 	// What the number from s to before t is too great by is what the count below t is, less what that below s is. So it is greatest between a place where the latter is greatest and one where it is smallest.
 	first := map[api.Frac]int{}
-	low, high := lowest(0, 1), lowest(0, 1)
+	low, high := fraction.Whole(0), fraction.Whole(0)
 	for t := range scale + 1 {
 		f := l.fraction(l.excess(l.below[t], t))
 		if _, seen := first[f]; !seen {
 			first[f] = t
 		}
-		if less(f, low) {
+		if fraction.Compare(f, low) < 0 {
 			low = f
 		}
-		if less(high, f) {
+		if fraction.Compare(high, f) < 0 {
 			high = f
 		}
 	}
 	if low == high {
-		return lowest(0, 1), [2]int{0, 1}, api.OK
+		return fraction.Whole(0), [2]int{0, 1}, api.OK
 	}
 	s, t := first[low], first[high]
-	return sum(high, negative(low)), [2]int{min(s, t), max(s, t)}, api.OK
+	return fraction.Difference(high, low), [2]int{min(s, t), max(s, t)}, api.OK
 }
 
 // Best returns the smallest discrepancy of n points on a line, and n points with the scale 2n that have it.

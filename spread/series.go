@@ -1,6 +1,9 @@
 package spread
 
-import "numnah/api"
+import (
+	"numnah/api"
+	"numnah/fraction"
+)
 
 // maxDigits is the greatest number of digits of a series.
 const maxDigits = 9
@@ -15,7 +18,7 @@ func mirror(b, k int) api.Frac {
 		num = num*b + k%b
 		den *= b
 	}
-	return lowest(num, den)
+	return fraction.Lowest(num, den)
 }
 
 // Mirror returns the mirror of k in base b.
@@ -28,7 +31,7 @@ func Mirror(b, k int) (api.Frac, api.Errno) {
 
 // Back returns the number whose mirror in base b is f.
 func Back(b int, f api.Frac) (int, api.Errno) {
-	if !isBase(b) || !isValid(f) || f.Num < 0 || f.Num >= f.Den {
+	if !isBase(b) || !fraction.IsValid(f) || f.Num < 0 || f.Num >= f.Den {
 		return 0, api.ErrArg
 	}
 	// The denominator of a mirror divides the first power of b that is greater than the number; a greater one might also leave the range of int below.

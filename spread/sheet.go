@@ -1,6 +1,9 @@
 package spread
 
-import "numnah/api"
+import (
+	"numnah/api"
+	"numnah/fraction"
+)
 
 // sheet are points on a sheet that have been read.
 type sheet struct {
@@ -79,5 +82,5 @@ func Sheet(scale int, points [][2]int) (api.Frac, [2]int, bool, api.Errno) {
 		return api.Frac{}, [2]int{}, false, api.ErrArg
 	}
 	w, deviation := worst(a.everywhere())
-	return lowest(deviation, a.size*scale*scale), [2]int{w.s, w.t}, w.open, api.OK
+	return fraction.Lowest(deviation, a.size*scale*scale), [2]int{w.s, w.t}, w.open, api.OK
 }
